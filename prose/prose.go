@@ -5,6 +5,7 @@ import (
 	"iter"
 
 	"prose/api"
+	"prose/blocks"
 	"prose/reading"
 	"prose/regular"
 )
@@ -18,8 +19,12 @@ func Gather(s api.Source) (string, error) {
 	return regular.Text(raw), nil
 }
 
-// Blocks tells the blocks of a regular text (P5 to P7).
-func Blocks(text string) []api.Event { return nil }
+// Blocks tells the blocks of a text, which is made regular first (P5 to P7).
+func Blocks(text string) []api.Event {
+	var out []api.Event
+	blocks.Each(regular.Text(text), func(e api.Event) { out = append(out, e) })
+	return out
+}
 
 // Inline tells what stands in a leaf (P8, P9).
 func Inline(text string) []api.Event { return nil }
