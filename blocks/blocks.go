@@ -5,6 +5,7 @@ import (
 	"strings"
 
 	"prose/api"
+	"prose/events"
 )
 
 // Each finds the blocks of a regular text, and hands each of their events to do, in order.
@@ -52,21 +53,9 @@ func begins(line string, depth int) api.Kind {
 	return api.Paragraph
 }
 
-// within tells a beginning, what is in it, and its end.
-func within(e api.Event, do func(api.Event), inside func()) {
-	do(e)
-	inside()
-	e.End = true
-	do(e)
-}
-
 // withText tells something that has nothing but a text in it.
 func withText(e api.Event, text string, do func(api.Event)) {
-	within(e, do, func() {
-		if text != "" {
-			do(api.Event{Kind: api.Text, Text: text})
-		}
-	})
+	events.Within(e, do, func() { events.Text(text, do) })
 }
 
 func code(l []string, do func(api.Event)) []string {
@@ -95,16 +84,16 @@ func quote(l []string, depth int, do func(api.Event)) []string {
 		inside = append(inside, unquoted(l[0]))
 		l = l[1:]
 	}
-	within(api.Event{Kind: api.Quote}, do, func() { each(inside, depth+1, do) })
+	events.Within(api.Event{Kind: api.Quote}, do, func() { each(inside, depth+1, do) })
 	return l
 }
 
 func list(l []string, depth int, do func(api.Event)) []string {
-	within(api.Event{Kind: api.List}, do, func() {
+	events.Within(api.Event{Kind: api.List}, do, func() {
 		for len(l) > 0 && isItem(l[0]) {
 			var inside []string
 			inside, l = item(l)
-			within(api.Event{Kind: api.Item}, do, func() { each(inside, depth+1, do) })
+			events.Within(api.Event{Kind: api.Item}, do, func() { each(inside, depth+1, do) })
 			// Whether the list goes on or not, these are no block's lines.
 			l = l[blanks(l):]
 		}

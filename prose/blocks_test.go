@@ -2,48 +2,12 @@ package prose_test
 
 import (
 	"slices"
-	"strconv"
 	"strings"
-	"sync"
 	"testing"
 
 	"prose/api"
 	"prose/prose"
 )
-
-// told is events as a text, each with all that it has.
-func told(l []api.Event) string {
-	names := [...]string{"Paragraph", "Heading", "Quote", "List", "Item", "Block", "Emphasis", "Link", "Text", "Code", "Soft", "Hard"}
-	var out []string
-	for _, e := range l {
-		s := names[e.Kind]
-		if e.End {
-			s = "/" + s
-		}
-		if e.Level != 0 {
-			s += strconv.Itoa(e.Level)
-		}
-		if e.Text != "" {
-			s += strconv.Quote(e.Text)
-		}
-		out = append(out, s)
-	}
-	return strings.Join(out, " ")
-}
-
-// around is the beginning of something, what is in it, and its end.
-func around(e api.Event, inside ...[]api.Event) []api.Event {
-	end := e
-	end.End = true
-	return append(append([]api.Event{e}, slices.Concat(inside...)...), end)
-}
-
-func text(s string) []api.Event {
-	if s == "" {
-		return nil
-	}
-	return []api.Event{{Kind: api.Text, Text: s}}
-}
 
 func paragraph(s string) []api.Event { return around(api.Event{Kind: api.Paragraph}, text(s)) }
 func code(s string) []api.Event      { return around(api.Event{Kind: api.Block}, text(s)) }
@@ -56,22 +20,9 @@ func quote(l ...[]api.Event) []api.Event { return around(api.Event{Kind: api.Quo
 func list(l ...[]api.Event) []api.Event  { return around(api.Event{Kind: api.List}, l...) }
 func item(l ...[]api.Event) []api.Event  { return around(api.Event{Kind: api.Item}, l...) }
 
-// several are blocks one behind the other.
-func several(l ...[]api.Event) []api.Event { return slices.Concat(l...) }
-
-// blocksOf is a text and its blocks.
-type blocksOf struct {
-	text string
-	want []api.Event
-}
-
-func checkBlocks(t *testing.T, cases []blocksOf) {
+func checkBlocks(t *testing.T, cases []eventsOf) {
 	t.Helper()
-	for _, c := range cases {
-		if got := prose.Blocks(c.text); !slices.Equal(got, c.want) {
-			t.Errorf("Blocks(%q):\n got %s\nwant %s", c.text, told(got), told(c.want))
-		}
-	}
+	checkEvents(t, prose.Blocks, cases)
 }
 
 // P5, P7: each kind of block, field by field, without the helpers that the other tests lean on.
@@ -107,7 +58,7 @@ func TestBlocksAreToldAsEvents(t *testing.T) {
 
 // P5: the two examples of the document.
 func TestBlocksOfTheExamples(t *testing.T) {
-	checkBlocks(t, []blocksOf{
+	checkBlocks(t, []eventsOf{
 		{"# x\n> - y", several(heading(1, "x"), quote(list(item(paragraph("y")))))},
 		{"-a", paragraph("-a")},
 		{"- a\n\n  b", list(item(paragraph("a"), paragraph("b")))},
@@ -125,7 +76,7 @@ func TestBlocksOfNothing(t *testing.T) {
 
 // P6: the last line ends with a line feed or without; a line feed more is a line more.
 func TestBlocksOfLastLines(t *testing.T) {
-	checkBlocks(t, []blocksOf{
+	checkBlocks(t, []eventsOf{
 		{"a", paragraph("a")},
 		{"a\n", paragraph("a")},
 		{"a\n\n", paragraph("a")},
@@ -148,7 +99,7 @@ func TestBlocksOfLastLines(t *testing.T) {
 
 // P5: fences: three backticks begin a block of code whatever stands behind them, but end it only alone.
 func TestFences(t *testing.T) {
-	checkBlocks(t, []blocksOf{
+	checkBlocks(t, []eventsOf{
 		{"```\na\n```", code("a\n")},
 		{"```\n```", code("")},
 		{"```\n\n```", code("\n")},
@@ -170,7 +121,7 @@ func TestFences(t *testing.T) {
 
 // P5: headings: one to three signs, and then the end or a blank.
 func TestHeadings(t *testing.T) {
-	checkBlocks(t, []blocksOf{
+	checkBlocks(t, []eventsOf{
 		{"# a", heading(1, "a")},
 		{"## a", heading(2, "a")},
 		{"### a", heading(3, "a")},
@@ -200,7 +151,7 @@ func TestHeadings(t *testing.T) {
 
 // P5: quotes: the sign at the very beginning, and one space behind it that goes with it.
 func TestQuotes(t *testing.T) {
-	checkBlocks(t, []blocksOf{
+	checkBlocks(t, []eventsOf{
 		{"> a", quote(paragraph("a"))},
 		{">a", quote(paragraph("a"))},
 		{">", quote()},
@@ -228,7 +179,7 @@ func TestQuotes(t *testing.T) {
 
 // P5: item lines: the sign alone, or with a blank behind it.
 func TestItemLines(t *testing.T) {
-	checkBlocks(t, []blocksOf{
+	checkBlocks(t, []eventsOf{
 		{"- a", list(item(paragraph("a")))},
 		{"-\ta", list(item(paragraph("a")))},
 		{"-", list(item())},
@@ -255,7 +206,7 @@ func TestItemLines(t *testing.T) {
 
 // P5: the lines behind an item line are the item's if they begin with two spaces, which go.
 func TestLinesOfItems(t *testing.T) {
-	checkBlocks(t, []blocksOf{
+	checkBlocks(t, []eventsOf{
 		{"- a\n  b", list(item(paragraph("a\nb")))},
 		{"- a\n b", several(list(item(paragraph("a"))), paragraph("b"))},
 		{"- a\nb", several(list(item(paragraph("a"))), paragraph("b"))},
@@ -278,7 +229,7 @@ func TestLinesOfItems(t *testing.T) {
 
 // P5: blank lines are an item's if it goes on behind them; else it ends, and the list may go on.
 func TestBlankLinesOfItems(t *testing.T) {
-	checkBlocks(t, []blocksOf{
+	checkBlocks(t, []eventsOf{
 		{"- a\n\n  b", list(item(paragraph("a"), paragraph("b")))},
 		{"- a\n\n\t\n \n  b", list(item(paragraph("a"), paragraph("b")))},
 		{"-\n\n  a", list(item(paragraph("a")))},
@@ -305,7 +256,7 @@ func TestBlankLinesOfItems(t *testing.T) {
 
 // P5: paragraphs: their lines without blanks at either end, up to a blank line or what begins something.
 func TestParagraphs(t *testing.T) {
-	checkBlocks(t, []blocksOf{
+	checkBlocks(t, []eventsOf{
 		{"a", paragraph("a")},
 		{"a\nb\nc", paragraph("a\nb\nc")},
 		{" \ta b\t \n\tc\n  d  ", paragraph("a b\nc\nd")},
@@ -331,7 +282,7 @@ func TestParagraphs(t *testing.T) {
 func TestDepth(t *testing.T) {
 	quotes := func(l ...[]api.Event) []api.Event { return quote(quote(quote(l...))) }
 	items := func(l ...[]api.Event) []api.Event { return list(item(list(item(list(item(l...)))))) }
-	checkBlocks(t, []blocksOf{
+	checkBlocks(t, []eventsOf{
 		{">>> a", quotes(paragraph("a"))},
 		{">>>> a", quotes(paragraph("> a"))},
 		{"> > > > a", quotes(paragraph("> a"))},
@@ -360,7 +311,7 @@ func TestDepth(t *testing.T) {
 
 // P5: a text that is not regular is made regular first.
 func TestBlocksOfIrregularTexts(t *testing.T) {
-	checkBlocks(t, []blocksOf{
+	checkBlocks(t, []eventsOf{
 		{"a\r\nb\rc\n\rd", several(paragraph("a\nb\nc"), paragraph("d"))},
 		{"# a\r# b\r\n", several(heading(1, "a"), heading(1, "b"))},
 		{"```\r\na\r\r\n```\r", code("a\n\n")},
@@ -471,40 +422,17 @@ func TestLastLineFeedMakesNoDifference(t *testing.T) {
 	}
 }
 
-// P2: the list is the caller's: what is done to it is not seen in another answer, nor is what was asked before.
+// P2: what was asked before, or what is done to an answer, is not seen in another one.
 func TestBlocksAreTheCallers(t *testing.T) {
-	const s = "# a\n- b\n\n  c\n```\nd"
 	want := several(heading(1, "a"), list(item(paragraph("b"), paragraph("c"))), code("d\n"))
-	mine := prose.Blocks(s)
-	other := prose.Blocks(s)
-	for i := range mine {
-		mine[i] = api.Event{Text: "mine"}
-	}
-	_ = append(mine[:0], api.Event{Text: "more"})
-	prose.Blocks("> else")
-	if !slices.Equal(other, want) {
-		t.Errorf("an answer changed with another one: %s", told(other))
-	}
-	if got := prose.Blocks(s); !slices.Equal(got, want) {
-		t.Errorf("a later answer changed: %s", told(got))
-	}
+	checkCallers(t, prose.Blocks, eventsOf{"# a\n- b\n\n  c\n```\nd", want})
 }
 
 // P2: calls side by side do not see each other.
 func TestBlocksSideBySide(t *testing.T) {
-	var all sync.WaitGroup
-	for i := range 8 {
-		all.Go(func() {
-			word := strconv.Itoa(i)
-			for range 50 {
-				got := prose.Blocks("> - " + word)
-				if want := quote(list(item(paragraph(word)))); !slices.Equal(got, want) {
-					t.Errorf("got %s, want %s", told(got), told(want))
-				}
-			}
-		})
-	}
-	all.Wait()
+	checkSideBySide(t, prose.Blocks, func(word string) eventsOf {
+		return eventsOf{"> - " + word, quote(list(item(paragraph(word))))}
+	})
 }
 
 // P1: Blocks ends at texts that are far longer than a source may give.

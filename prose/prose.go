@@ -6,6 +6,7 @@ import (
 
 	"prose/api"
 	"prose/blocks"
+	"prose/leaves"
 	"prose/reading"
 	"prose/regular"
 )
@@ -21,13 +22,20 @@ func Gather(s api.Source) (string, error) {
 
 // Blocks tells the blocks of a text, which is made regular first (P5 to P7).
 func Blocks(text string) []api.Event {
-	var out []api.Event
-	blocks.Each(regular.Text(text), func(e api.Event) { out = append(out, e) })
-	return out
+	return listed(text, blocks.Each)
 }
 
-// Inline tells what stands in a leaf (P8, P9).
-func Inline(text string) []api.Event { return nil }
+// Inline tells what stands in a leaf, which is made regular first (P8, P9).
+func Inline(text string) []api.Event {
+	return listed(text, leaves.Each)
+}
+
+// listed is what each finds in a text, made regular, as a list.
+func listed(text string, each func(string, func(api.Event))) []api.Event {
+	var out []api.Event
+	each(regular.Text(text), func(e api.Event) { out = append(out, e) })
+	return out
+}
 
 // Parser is pulled for events.
 type Parser struct{}
