@@ -8,34 +8,44 @@ import (
 	"prose/events"
 )
 
-// Each finds the blocks of a regular text, and hands each of their events to do, in order.
-func Each(text string, do func(api.Event)) {
-	each(lines(text), 0, do)
+// Span is where something stands in a text: its lines, from one on up to another that is not of them.
+type Span struct{ From, To int }
+
+// Each finds the blocks of a regular text, and hands each of their events to do, in order; but a leaf that is not empty it hands to leaf, in place of its text's event: what is to come of it, and when, is the caller's to say.
+func Each(text string, do func(api.Event), leaf func(text string, at Span)) {
+	f := finder{do, leaf}
+	f.each(part{lines: lines(text)})
 }
 
-// each finds the blocks of some lines at a depth.
-func each(l []string, depth int, do func(api.Event)) {
-	for len(l) > 0 {
-		l = first(l, depth, do)
+// finder hands on what it finds.
+type finder struct {
+	do   func(api.Event)
+	leaf func(text string, at Span)
+}
+
+// each finds the blocks of a part.
+func (f finder) each(p part) {
+	for len(p.lines) > 0 {
+		p = p.behind(f.first(p))
 	}
 }
 
-// first tells the block that the first line begins, and answers the lines behind it.
-func first(l []string, depth int, do func(api.Event)) []string {
-	if isBlank(l[0]) {
-		return l[1:]
+// first tells the block that the first line begins, and answers how many lines it takes.
+func (f finder) first(p part) int {
+	if isBlank(p.lines[0]) {
+		return 1
 	}
-	switch begins(l[0], depth) {
+	switch begins(p.lines[0], p.depth) {
 	case api.Block:
-		return code(l, do)
+		return f.code(p)
 	case api.Heading:
-		return heading(l, do)
+		return f.heading(p)
 	case api.Quote:
-		return quote(l, depth, do)
+		return f.quote(p)
 	case api.List:
-		return list(l, depth, do)
+		return f.list(p)
 	}
-	return paragraph(l, depth, do)
+	return f.paragraph(p)
 }
 
 // begins is what a line that is not blank begins at a depth: a paragraph, if nothing else.
@@ -53,77 +63,89 @@ func begins(line string, depth int) api.Kind {
 	return api.Paragraph
 }
 
-// withText tells something that has nothing but a text in it.
-func withText(e api.Event, text string, do func(api.Event)) {
-	events.Within(e, do, func() { events.Text(text, do) })
+// withBlocks tells something that has blocks in it.
+func (f finder) withBlocks(k api.Kind, inside part) {
+	events.Within(api.Event{Kind: k}, f.do, func() { f.each(inside) })
 }
 
-func code(l []string, do func(api.Event)) []string {
-	l = l[1:]
-	n := 0
+// withLeaf tells something that has a leaf in it.
+func (f finder) withLeaf(e api.Event, leaf string, at Span) {
+	events.Within(e, f.do, func() {
+		if leaf != "" {
+			f.leaf(leaf, at)
+		}
+	})
+}
+
+func (f finder) code(p part) int {
+	n := 1
 	var text strings.Builder
-	for n < len(l) && !isFenceEnd(l[n]) {
-		text.WriteString(l[n])
+	for n < len(p.lines) && !isFenceEnd(p.lines[n]) {
+		text.WriteString(p.lines[n])
 		text.WriteByte('\n')
 		n++
 	}
-	withText(api.Event{Kind: api.Block}, text.String(), do)
+	events.Within(api.Event{Kind: api.Block}, f.do, func() { events.Text(text.String(), f.do) })
 	// A block without an end has no line to pass over.
-	return l[min(n+1, len(l)):]
+	return min(n+1, len(p.lines))
 }
 
-func heading(l []string, do func(api.Event)) []string {
-	n := level(l[0])
-	withText(api.Event{Kind: api.Heading, Level: n}, trim(l[0][n:]), do)
-	return l[1:]
+func (f finder) heading(p part) int {
+	n := level(p.lines[0])
+	f.withLeaf(api.Event{Kind: api.Heading, Level: n}, trim(p.lines[0][n:]), p.span(1))
+	return 1
 }
 
-func quote(l []string, depth int, do func(api.Event)) []string {
+func (f finder) quote(p part) int {
 	var inside []string
-	for len(l) > 0 && isQuoted(l[0]) {
-		inside = append(inside, unquoted(l[0]))
-		l = l[1:]
+	for _, line := range p.lines {
+		if !isQuoted(line) {
+			break
+		}
+		inside = append(inside, unquoted(line))
 	}
-	events.Within(api.Event{Kind: api.Quote}, do, func() { each(inside, depth+1, do) })
-	return l
+	f.withBlocks(api.Quote, p.within(inside))
+	return len(inside)
 }
 
-func list(l []string, depth int, do func(api.Event)) []string {
-	events.Within(api.Event{Kind: api.List}, do, func() {
-		for len(l) > 0 && isItem(l[0]) {
-			var inside []string
-			inside, l = item(l)
-			events.Within(api.Event{Kind: api.Item}, do, func() { each(inside, depth+1, do) })
+func (f finder) list(p part) int {
+	all := len(p.lines)
+	events.Within(api.Event{Kind: api.List}, f.do, func() {
+		for len(p.lines) > 0 && isItem(p.lines[0]) {
+			inside := item(p.lines)
+			f.withBlocks(api.Item, p.within(inside))
+			p = p.behind(len(inside))
 			// Whether the list goes on or not, these are no block's lines.
-			l = l[blanks(l):]
+			p = p.behind(blanks(p.lines))
 		}
 	})
-	return l
+	return all - len(p.lines)
 }
 
-// item is what stands in the item that the first line begins, and the lines behind it.
-func item(l []string) (inside, behind []string) {
-	inside = append(inside, unmarked(l[0]))
-	l = l[1:]
+// item is what stands in the item that the first line begins: of each of its lines one.
+func item(l []string) []string {
+	inside := []string{unmarked(l[0])}
 	for {
-		n := blanks(l)
-		if n == len(l) || !isIndented(l[n]) {
-			return inside, l
+		rest := l[len(inside):]
+		n := blanks(rest)
+		if n == len(rest) || !isIndented(rest[n]) {
+			return inside
 		}
 		for range n {
 			inside = append(inside, "")
 		}
-		inside = append(inside, unindented(l[n]))
-		l = l[n+1:]
+		inside = append(inside, unindented(rest[n]))
 	}
 }
 
-func paragraph(l []string, depth int, do func(api.Event)) []string {
+func (f finder) paragraph(p part) int {
 	var leaf []string
-	for len(l) > 0 && !isBlank(l[0]) && begins(l[0], depth) == api.Paragraph {
-		leaf = append(leaf, trim(l[0]))
-		l = l[1:]
+	for _, line := range p.lines {
+		if isBlank(line) || begins(line, p.depth) != api.Paragraph {
+			break
+		}
+		leaf = append(leaf, trim(line))
 	}
-	withText(api.Event{Kind: api.Paragraph}, strings.Join(leaf, "\n"), do)
-	return l
+	f.withLeaf(api.Event{Kind: api.Paragraph}, strings.Join(leaf, "\n"), p.span(len(leaf)))
+	return len(leaf)
 }

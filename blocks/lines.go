@@ -11,6 +11,22 @@ const (
 	topLevel   = 3
 )
 
+// part is some lines that are looked at by themselves, at a depth.
+type part struct {
+	lines []string
+	at    int // which line of the text the first one is
+	depth int
+}
+
+// behind is what stands behind the first n lines.
+func (p part) behind(n int) part { return part{p.lines[n:], p.at + n, p.depth} }
+
+// within is what stands within the first lines: of each of them one, so that it is known where in the text they stand.
+func (p part) within(inside []string) part { return part{inside, p.at, p.depth + 1} }
+
+// span is where the first n lines stand in the text.
+func (p part) span(n int) Span { return Span{p.at, p.at + n} }
+
 // lines are the lines of a text, without their line feeds.
 func lines(text string) []string {
 	l := strings.Split(text, "\n")

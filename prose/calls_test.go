@@ -25,9 +25,6 @@ func TestCallsEndAndDoNotPanic(t *testing.T) {
 
 // pull asks a parser for all there is, and again behind its end.
 func pull(p *plain.Parser) {
-	if p == nil {
-		return
-	}
 	p.Err()
 	p.Next()
 	p.All(2)
