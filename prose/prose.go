@@ -7,7 +7,9 @@ import (
 	"prose/api"
 	"prose/blocks"
 	"prose/events"
+	"prose/html"
 	"prose/leaves"
+	"prose/offering"
 	"prose/pulling"
 	"prose/reading"
 	"prose/regular"
@@ -96,4 +98,10 @@ func (p *Parser) All() iter.Seq[api.Event] {
 }
 
 // Write writes what a source gives as HTML (P12, P13).
-func Write(s api.Source, to api.Sink) (int, error) { return 0, nil }
+func Write(s api.Source, to api.Sink) (int, error) {
+	p := New(s)
+	if err := p.Err(); err != nil {
+		return 0, err
+	}
+	return offering.All(to, html.Of(p.All()))
+}
